@@ -258,6 +258,7 @@ func someGame(seed uint64) game {
 // P11.5
 
 func TestGames(t *testing.T) {
+	t.Parallel()
 	kinds := map[api.NoteKind]int{}
 	stay, late, again := 0, 0, 0
 	for seed := range uint64(2500) {
@@ -337,11 +338,13 @@ func splitGames(f func(g game)) {
 }
 
 func TestGamesInWhichThreadsAreSplit(t *testing.T) {
+	t.Parallel()
 	splitGames(func(g game) { g.hold(t) })
 }
 
 // Two threads in all orders of picks up to a length, and three in many.
 func TestSmallGamesInAllOrders(t *testing.T) {
+	t.Parallel()
 	for _, programs := range [][][]api.Step{
 		{slices.Concat(put(0), pull(0)), look(0)},
 		{slices.Concat(pull(2), put(2)), slices.Concat(put(2), pull(2))},
@@ -368,6 +371,7 @@ func TestSmallGamesInAllOrders(t *testing.T) {
 
 // In these games each scheme that does something otherwise than the chapter says is found out: it frees what somebody has a right on, or somebody goes on with what is no longer there.
 func TestTheGamesFindOutSchemesThatAreWrong(t *testing.T) {
+	t.Parallel()
 	const enough = 4
 	for is := blind; is < wrongs; is++ {
 		found := 0
@@ -425,6 +429,7 @@ func TestASleepIsSkipped(t *testing.T) {
 
 // As many threads as there may be, all at two globals: whoever looks holds back what it looks at, and in the end all is free.
 func TestManyThreads(t *testing.T) {
+	t.Parallel()
 	for _, x := range []struct{ k, thresh int }{{0, 1}, {4, 7}, {32, api.MaxThresh}} {
 		g := game{config: api.Config{Threads: api.MaxThreads, Slots: [2]int{100, 0}, Thresh: x.thresh, Step: 1, Cache: x.k}, whole: true}
 		var text []api.Step
