@@ -350,7 +350,7 @@ func someGame(seed uint64) game {
 	return g
 }
 
-// P14.5
+// P15.5
 
 func TestGames(t *testing.T) {
 	t.Parallel()
