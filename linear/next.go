@@ -1,0 +1,125 @@
+package linear
+
+import (
+	"slices"
+	"strconv"
+	"strings"
+
+	"reprieve/api"
+)
+
+// next are the calls that are to be tried next, one after the other. They are as few as can be told: if any order comes of the moment at all, one comes of it that goes on with one of them.
+func (m *moment) next() []int {
+	if m.client == api.Queue {
+		return m.nextOfQueue()
+	}
+	if read := m.soonest(m.those(m.ready, m.reads)); read >= 0 {
+		return []int{read}
+	}
+	take := some(m.soonest(m.those(m.ready, m.canTake)))
+	if len(take) > 0 && m.safe(take[0]) {
+		return take
+	}
+	if m.urgent >= 0 && takes(m.calls[m.urgent].Op) {
+		return append(m.inputFor(m.urgent), take...)
+	}
+	inputs := m.inputs()
+	if passing := those(inputs, m.passes); len(passing) > 0 {
+		return passing[:1]
+	}
+	return append(take, inputs...)
+}
+
+// some is a list of a call, if there is one.
+func some(i int) []int {
+	if i < 0 {
+		return nil
+	}
+	return []int{i}
+}
+
+// reads is whether a call would have its answer, and leave the object as it is: then nothing is lost by it.
+func (m *moment) reads(d api.Done) bool {
+	return returned(d) && d.Answer == m.answers[d.Op] && !m.changes(d)
+}
+
+// changes is whether a call would leave the object otherwise than it is.
+func (m *moment) changes(d api.Done) bool { return m.answers[d.Op].Yes && d.Op != api.OpGet }
+
+// canTake is whether a call would take something, and have its answer. All calls that can would take the same, so that the one that must be done soonest is as good as any.
+func (m *moment) canTake(d api.Done) bool {
+	return takes(d.Op) && m.changes(d) && (!returned(d) || d.Answer == m.answers[d.Op])
+}
+
+// canPut is whether a call would put something in, and have its answer. One that did not return is of no use if nobody finds what it puts in.
+func (m *moment) canPut(d api.Done) bool {
+	if !puts(d.Op) || !m.changes(d) {
+		return false
+	}
+	if returned(d) {
+		return d.Answer == m.answers[d.Op]
+	}
+	found := m.left & (m.taking[d.Value] | m.getting[d.Value] | m.meeting)
+	return found != 0 || m.ends && hasValue(m.last, d.Value)
+}
+
+// input is the call that puts a value in: of several the one that must be done soonest, as all of them put in the same.
+func (m *moment) input(value uint64) int {
+	return m.soonest(m.those(m.ready&m.putting[value], m.canPut))
+}
+
+// inputFor is the call that puts in what another one takes.
+func (m *moment) inputFor(take int) []int {
+	answer := m.calls[take].Answer
+	if !answer.Yes {
+		return nil
+	}
+	return some(m.input(answer.Value))
+}
+
+// inputs are the calls that put something in, one for all values of a role.
+func (m *moment) inputs() []int {
+	met := map[string]struct{}{}
+	var inputs []int
+	for i := range m.those(m.ready, m.canPut).each() {
+		role := m.role(m.calls[i].Value)
+		if _, was := met[role]; !was {
+			met[role] = struct{}{}
+			inputs = append(inputs, m.input(m.calls[i].Value))
+		}
+	}
+	return inputs
+}
+
+// role tells values apart, but for those that could change places in all that is left: that are not in the object, nor asked for in the end, and have calls that are alike in all else.
+func (m *moment) role(value uint64) string {
+	if hasValue(m.things, value) || m.ends && hasValue(m.last, value) {
+		return strconv.FormatUint(value, 10)
+	}
+	var parts []string
+	for i := range (m.left & (m.putting[value] | m.taking[value] | m.getting[value])).each() {
+		d := m.calls[i]
+		parts = append(parts, strconv.Itoa(int(d.Op))+" from "+strconv.Itoa(d.Begun)+" to "+strconv.Itoa(max(-1, d.Ended)))
+	}
+	slices.Sort(parts)
+	return strings.Join(parts, ", ")
+}
+
+// safe is whether nothing is lost if a call takes what it can. Something might be if another one that takes the same had to be done before, or if this one had better take the same when it has been put in once more.
+func (m *moment) safe(take int) bool {
+	d := m.calls[take]
+	if !returned(d) || sooner(m.calls[m.soonest(m.left&m.taking[d.Answer.Value])], d) {
+		return false
+	}
+	return d.Ended == m.calls[m.urgent].Ended || m.allReady(m.putting[d.Answer.Value])
+}
+
+// passes is whether nothing is lost if a call puts something in for a moment, until it is taken: the same is not there already, there is no better call to put it in, and nobody finds it later on.
+func (m *moment) passes(input int) bool {
+	value := m.calls[input].Value
+	take := m.soonest(m.left & m.taking[value])
+	return take >= 0 && m.ready.has(take) && !hasValue(m.things, value) && m.allReady(m.putting[value]|m.getting[value]|m.meeting)
+}
+
+// allReady is whether all calls of a set that are left can be next.
+func (m *moment) allReady(s set) bool { return s&m.left&^m.ready == 0 }

@@ -1,0 +1,118 @@
+package linear
+
+import (
+	"reprieve/api"
+	"reprieve/model"
+)
+
+// question is whether one object explains calls that count: the whole of a stack or a queue, or what a map has with one key.
+type question struct {
+	client api.ClientKind
+	key    uint64 // of a map
+	first  []api.Thing
+	calls  []api.Done
+	last   []api.Thing
+	ends   bool // whether the things at the end are asked for
+
+	must    set            // the calls that returned
+	putting map[uint64]set // of each value the calls that may put it in
+	taking  map[uint64]set // of each value the calls that returned, and took it
+	getting map[uint64]set // of each value the calls that returned, and found it without taking it
+	meeting set            // the calls that put nothing in, since something was there
+	missing set            // the calls that took nothing, since nothing was there
+	loose   set            // the calls that may take anything, or nothing
+}
+
+// questionsOf are all that a history asks: it is explained if the answer is yes each time.
+func questionsOf(c api.ClientKind, first []api.Thing, l []api.Done, last []api.Thing, ends bool) []*question {
+	if !keyed(c) {
+		return []*question{{client: c, first: first, calls: l, last: last, ends: ends}}
+	}
+	ofThing := func(t api.Thing) uint64 { return t.Key }
+	firsts, lasts := parted(first, ofThing), parted(last, ofThing)
+	calls := parted(l, func(d api.Done) uint64 { return d.Key })
+	var questions []*question
+	for _, key := range Keys(c, append(first[:len(first):len(first)], last...), l) {
+		questions = append(questions, &question{client: c, key: key, first: firsts[key], calls: calls[key], last: lasts[key], ends: ends})
+	}
+	return questions
+}
+
+// parted are the items of a list by their keys, those of each key in their order.
+func parted[T any](l []T, key func(T) uint64) map[uint64][]T {
+	parts := map[uint64][]T{}
+	for _, item := range l {
+		parts[key(item)] = append(parts[key(item)], item)
+	}
+	return parts
+}
+
+// explained tries orders, call by call, until one has all calls that returned. What can follow a part of an order hangs on nothing but which calls are left, and what the object has: so parts that are alike in that are tried once.
+func (q *question) explained() bool {
+	if len(those(q.calls, possible)) < len(q.calls) {
+		return false
+	}
+	q.sort()
+	tried := map[string]struct{}{}
+	var try func(left set, x *model.Object) bool
+	try = func(left set, x *model.Object) bool {
+		found := false
+	order:
+		for {
+			m := q.momentOf(left, x)
+			name := m.name()
+			_, was := tried[name]
+			tried[name] = struct{}{}
+			found = m.through()
+			if found || was || m.hopeless() {
+				break
+			}
+			next := m.next()
+			for n, i := range next {
+				if n == len(next)-1 { // nobody needs the object as it is any more
+					q.do(i, x)
+					left = left.without(i)
+					continue order
+				}
+				y := x.Copy()
+				q.do(i, y)
+				if try(left.without(i), y) {
+					found = true
+					break order
+				}
+			}
+			break
+		}
+		return found
+	}
+	x, _ := model.New(q.client, q.first...)
+	return try(all(len(q.calls)), x)
+}
+
+// do lets an object perform a call.
+func (q *question) do(i int, x *model.Object) { x.Do(q.calls[i].Op, q.calls[i].Key, q.calls[i].Value) }
+
+// sort looks once at what each call is to the others.
+func (q *question) sort() {
+	q.putting, q.taking, q.getting = map[uint64]set{}, map[uint64]set{}, map[uint64]set{}
+	for i, d := range q.calls {
+		done := returned(d)
+		if done {
+			q.must = q.must.with(i)
+		}
+		switch {
+		case puts(d.Op) && done && !d.Answer.Yes:
+			q.meeting = q.meeting.with(i)
+		case puts(d.Op):
+			q.putting[d.Value] = q.putting[d.Value].with(i)
+		case !done:
+			q.loose = q.loose.with(i)
+		case !takes(d.Op) && d.Answer.Yes:
+			q.getting[d.Answer.Value] = q.getting[d.Answer.Value].with(i)
+		case takes(d.Op) && d.Answer.Yes:
+			q.taking[d.Answer.Value] = q.taking[d.Answer.Value].with(i)
+		case takes(d.Op):
+			q.missing = q.missing.with(i)
+		}
+	}
+}
