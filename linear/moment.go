@@ -13,14 +13,15 @@ type moment struct {
 	*question
 	left    set                       // the calls that the order does not have yet
 	things  []api.Thing               // what the object has
+	pushed  []int                     // the calls that have pushed things of a stack; the last one pushed the first thing
 	answers [api.OpGet + 1]api.Answer // what the object answers to each op of the client; no answer hangs on the value that is handed in
 	urgent  int                       // the call left that must be done soonest; -1 if none must
 	ready   set                       // the calls left ahead of which none of those left must be done
 }
 
 // momentOf asks copies of the object, so that it stays as it is.
-func (q *question) momentOf(left set, x *model.Object) *moment {
-	m := &moment{question: q, left: left, things: x.Things()}
+func (q *question) momentOf(left set, x *model.Object, pushed []int) *moment {
+	m := &moment{question: q, left: left, things: x.Things(), pushed: pushed}
 	for o := range m.answers {
 		if model.May(q.client, api.Op(o)) {
 			m.answers[o] = x.Copy().Do(api.Op(o), q.key, 0)
@@ -57,13 +58,32 @@ func (q *question) readyBy(s set, i int) set {
 	return q.those(s, func(d api.Done) bool { return i < 0 || !Ahead(q.calls[i], d) })
 }
 
+// firstBegun is of the calls of a set the one that began first; -1 if there is none.
+func (q *question) firstBegun(s set) int {
+	first := -1
+	for i := range s.each() {
+		if first < 0 || q.calls[i].Begun < q.calls[first].Begun {
+			first = i
+		}
+	}
+	return first
+}
+
 // name tells moments of a question apart.
 func (m *moment) name() string {
 	name := strconv.AppendUint(nil, uint64(m.left), 36)
 	for _, thing := range m.things {
 		name = strconv.AppendUint(append(name, ' '), thing.Value, 36)
 	}
+	for _, i := range m.pushed {
+		name = strconv.AppendInt(append(name, ' '), int64(m.behind(i).len()), 36)
+	}
 	return string(name)
+}
+
+// behind are the calls left that may take anything, and that a call is before.
+func (m *moment) behind(i int) set {
+	return m.those(m.left&m.loose, func(d api.Done) bool { return Ahead(m.calls[i], d) })
 }
 
 // through is whether all is done that must be done.

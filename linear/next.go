@@ -8,26 +8,52 @@ import (
 	"reprieve/api"
 )
 
-// next are the calls that are to be tried next, one after the other. They are as few as can be told: if any order comes of the moment at all, one comes of it that goes on with one of them.
-func (m *moment) next() []int {
+// next are the calls that are to be tried next, in turn, one or two at once. They are as few as can be told: if any order comes of the moment at all, one comes of it that goes on with some of them.
+func (m *moment) next() [][]int {
 	if m.client == api.Queue {
 		return m.nextOfQueue()
 	}
 	if read := m.soonest(m.those(m.ready, m.reads)); read >= 0 {
-		return []int{read}
+		return [][]int{{read}}
 	}
-	take := some(m.soonest(m.those(m.ready, m.canTake)))
+	take := m.taker()
 	if len(take) > 0 && m.safe(take[0]) {
-		return take
+		return each(take)
 	}
 	if m.urgent >= 0 && takes(m.calls[m.urgent].Op) {
-		return append(m.inputFor(m.urgent), take...)
+		return each(append(m.inputFor(m.urgent), take...))
 	}
 	inputs := m.inputs()
 	if passing := those(inputs, m.passes); len(passing) > 0 {
-		return passing[:1]
+		return each(passing[:1])
 	}
-	return append(take, inputs...)
+	return append(each(append(take, inputs...)), m.gone()...)
+}
+
+// each is a list of calls, each by itself.
+func each(calls []int) [][]int {
+	var l [][]int
+	for _, i := range calls {
+		l = append(l, []int{i})
+	}
+	return l
+}
+
+// taker is the call that takes something. All that can would take the same, so that the one that must be done soonest is as good as any. Of those that need not be done, one that could have taken the thing of a stack as soon as it was pushed need not do so later.
+func (m *moment) taker() []int {
+	if take := m.soonest(m.those(m.ready&m.must, m.canTake)); take >= 0 {
+		return []int{take}
+	}
+	return some(m.firstBegun(m.those(m.ready&m.looseFor(0), m.canTake)))
+}
+
+// gone are the call that must be done soonest, if it pushes something, and one that takes that at once, though it did not return.
+func (m *moment) gone() [][]int {
+	loose := m.firstBegun(m.ready & m.loose)
+	if loose < 0 || m.urgent < 0 || m.client != api.Stack {
+		return nil
+	}
+	return [][]int{{m.urgent, loose}}
 }
 
 // some is a list of a call, if there is one.
@@ -46,7 +72,7 @@ func (m *moment) reads(d api.Done) bool {
 // changes is whether a call would leave the object otherwise than it is.
 func (m *moment) changes(d api.Done) bool { return m.answers[d.Op].Yes && d.Op != api.OpGet }
 
-// canTake is whether a call would take something, and have its answer. All calls that can would take the same, so that the one that must be done soonest is as good as any.
+// canTake is whether a call would take something, and have its answer.
 func (m *moment) canTake(d api.Done) bool {
 	return takes(d.Op) && m.changes(d) && (!returned(d) || d.Answer == m.answers[d.Op])
 }
@@ -77,11 +103,14 @@ func (m *moment) inputFor(take int) []int {
 	return some(m.input(answer.Value))
 }
 
-// inputs are the calls that put something in, one for all values of a role.
+// inputs are the calls that put something in, one for all values of a role. A call that did not return need not push what does not stay until it is popped.
 func (m *moment) inputs() []int {
 	met := map[string]struct{}{}
 	var inputs []int
 	for i := range m.those(m.ready, m.canPut).each() {
+		if m.client == api.Stack && !m.must.has(i) && !(m.ends && hasValue(m.last, m.calls[i].Value)) {
+			continue
+		}
 		role := m.role(m.calls[i].Value)
 		if _, was := met[role]; !was {
 			met[role] = struct{}{}

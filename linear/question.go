@@ -1,6 +1,8 @@
 package linear
 
 import (
+	"slices"
+
 	"reprieve/api"
 	"reprieve/model"
 )
@@ -47,19 +49,19 @@ func parted[T any](l []T, key func(T) uint64) map[uint64][]T {
 	return parts
 }
 
-// explained tries orders, call by call, until one has all calls that returned. What can follow a part of an order hangs on nothing but which calls are left, and what the object has: so parts that are alike in that are tried once.
+// explained tries orders, call by call, until one has all calls that returned. What can follow a part of an order hangs on what its moment is called by alone: so parts that are alike in that are tried once.
 func (q *question) explained() bool {
 	if len(those(q.calls, possible)) < len(q.calls) {
 		return false
 	}
 	q.sort()
 	tried := map[string]struct{}{}
-	var try func(left set, x *model.Object) bool
-	try = func(left set, x *model.Object) bool {
+	var try func(left set, x *model.Object, pushed []int) bool
+	try = func(left set, x *model.Object, pushed []int) bool {
 		found := false
 	order:
 		for {
-			m := q.momentOf(left, x)
+			m := q.momentOf(left, x, pushed)
 			name := m.name()
 			_, was := tried[name]
 			tried[name] = struct{}{}
@@ -68,15 +70,12 @@ func (q *question) explained() bool {
 				break
 			}
 			next := m.next()
-			for n, i := range next {
+			for n, calls := range next {
 				if n == len(next)-1 { // nobody needs the object as it is any more
-					q.do(i, x)
-					left = left.without(i)
+					left, x, pushed = q.do(calls, left, x, pushed)
 					continue order
 				}
-				y := x.Copy()
-				q.do(i, y)
-				if try(left.without(i), y) {
+				if try(q.do(calls, left, x.Copy(), pushed)) {
 					found = true
 					break order
 				}
@@ -86,11 +85,24 @@ func (q *question) explained() bool {
 		return found
 	}
 	x, _ := model.New(q.client, q.first...)
-	return try(all(len(q.calls)), x)
+	return try(all(len(q.calls)), x, nil)
 }
 
-// do lets an object perform a call.
-func (q *question) do(i int, x *model.Object) { x.Do(q.calls[i].Op, q.calls[i].Key, q.calls[i].Value) }
+// do lets an object perform calls. Of a stack it keeps which calls have pushed what is there, but for things that were there at first.
+func (q *question) do(calls []int, left set, x *model.Object, pushed []int) (set, *model.Object, []int) {
+	for _, i := range calls {
+		x.Do(q.calls[i].Op, q.calls[i].Key, q.calls[i].Value)
+		left = left.without(i)
+		switch {
+		case q.client != api.Stack:
+		case puts(q.calls[i].Op):
+			pushed = append(slices.Clone(pushed), i)
+		default:
+			pushed = pushed[:max(0, len(pushed)-1)]
+		}
+	}
+	return left, x, pushed
+}
 
 // sort looks once at what each call is to the others.
 func (q *question) sort() {

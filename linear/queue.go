@@ -7,30 +7,57 @@ import (
 )
 
 // nextOfQueue looks for orders of a kind of their own: in them each take stands right behind the put of what it takes, or in front of all puts if that was there at first. So it can stand in front of puts that are before it. That can be mended: takes can be moved back over puts, since what they take stays in front of what is put in meanwhile. But they can't be moved over a call that found nothing: there all calls in front have to be done by then.
-func (m *moment) nextOfQueue() []int {
+func (m *moment) nextOfQueue() [][]int {
 	switch {
-	case len(m.things) > 0 && m.takesLeft() != 0:
-		return m.takers(m.things[0].Value)
 	case m.takesLeft() == 0 && m.ends:
-		return append(m.looseTaker(), m.inputs()...)
+		return m.closing()
 	case m.takesLeft() == 0:
-		return []int{m.urgent} // nobody sees any more in which order things are put in
+		return [][]int{{m.urgent}} // nobody sees any more in which order things are put in
+	case len(m.things) > 0:
+		return each(m.takers(m.things[0].Value))
 	}
 	urgent := m.calls[m.urgent]
 	if none := m.soonest(m.ready & m.missing); none >= 0 && m.latest() <= urgent.Ended {
-		return []int{none}
+		return [][]int{{none}}
 	}
 	if takes(urgent.Op) {
-		return m.inputFor(m.urgent)
+		return each(m.inputFor(m.urgent))
 	}
 	inputs := m.inputs()
 	if passing := those(inputs, m.passesBy); len(passing) > 0 {
-		return passing[:1]
+		return each(passing[:1])
 	}
-	return those(inputs, func(i int) bool {
+	return each(those(inputs, func(i int) bool {
 		taken := m.readyTakes()&m.taking[m.calls[i].Value] != 0
 		return taken || m.calls[i].Ended == urgent.Ended && len(m.looseTaker()) > 0
-	})
+	}))
+}
+
+// closing is for when all is taken that must be: then what is still too much in front is taken by calls that need not be done, each thing as soon as it is put in, and behind that comes what there is in the end.
+func (m *moment) closing() [][]int {
+	loose := m.looseTaker()
+	n := len(m.things)
+	if n > len(m.last) || !slices.EqualFunc(m.things, m.last[:n], sameValue) {
+		return each(loose)
+	}
+	var next [][]int
+	if n < len(m.last) {
+		next = each(some(m.input(m.last[n].Value)))
+	}
+	if n > 0 || len(loose) == 0 {
+		return append(next, each(loose)...)
+	}
+	for _, i := range those(m.inputs(), m.must.has) {
+		inputs, wanted := m.left&m.putting[m.calls[i].Value], countOf(m.last, m.calls[i].Value)
+		gone := []int{i, loose[0]}
+		switch {
+		case (inputs & m.must).len() > wanted:
+			return [][]int{gone}
+		case inputs.len() > wanted:
+			next = append(next, gone)
+		}
+	}
+	return next
 }
 
 // takesLeft are the takes left that must be done.
@@ -59,15 +86,7 @@ func (m *moment) takers(value uint64) []int {
 }
 
 // looseTaker is of the calls that may take anything the one that began first.
-func (m *moment) looseTaker() []int {
-	first := -1
-	for i := range (m.readyTakes() & m.loose).each() {
-		if first < 0 || m.calls[i].Begun < m.calls[first].Begun {
-			first = i
-		}
-	}
-	return some(first)
-}
+func (m *moment) looseTaker() []int { return some(m.firstBegun(m.readyTakes() & m.loose)) }
 
 // passesBy is as passes, for a queue that is empty. A take ahead of which puts must be done that are left can do only where no call finds nothing.
 func (m *moment) passesBy(input int) bool {

@@ -65,10 +65,10 @@ func (s *sweep) goTo(now int) {
 	}
 }
 
-// take goes on to the first moment at which one more of a value can be taken. There may be none.
-func (s *sweep) take(value uint64) bool {
+// take goes on to the first moment at which one more of a value can be taken, by a call that takes it or by others that may take anything. There may be none.
+func (s *sweep) take(value uint64, others set) bool {
 	s.short.need(value, 1)
-	for s.short.sum > s.spare || s.spare == 0 && s.takersFrom(value, s.now)&s.begun() == 0 {
+	for s.short.sum > s.spare || (s.takersFrom(value, s.now)|others)&s.begun() == 0 {
 		if len(s.later) == 0 {
 			return false
 		}
@@ -96,7 +96,7 @@ func (m *moment) unwinds() bool {
 		if short.sum == 0 && m.canStay(n) {
 			return true
 		}
-		if !s.take(thing.Value) {
+		if !s.take(thing.Value, m.looseFor(n)) {
 			return false
 		}
 		moments = append(moments, s.now)
@@ -134,18 +134,26 @@ func (m *moment) canStay(n int) bool {
 func (m *moment) enough(moments []int) bool {
 	last := len(moments) - 1
 	value := m.things[last].Value
-	spare := (m.left & m.loose).len()
-	alike := 0
+	alike, takers := 0, set(0)
 	for n := last; n >= 0; n-- {
 		if m.things[n].Value != value {
 			continue
 		}
 		alike++
-		if alike > spare+m.takersFrom(value, moments[n]).len() {
+		takers |= m.looseFor(n) | m.takersFrom(value, moments[n])
+		if alike > takers.len() {
 			return false
 		}
 	}
 	return true
+}
+
+// looseFor are the calls left that may take anything, also the n-th thing: one that was pushed since the beginning is taken at once, or by what it is before.
+func (m *moment) looseFor(n int) set {
+	if n < len(m.pushed) {
+		return m.behind(m.pushed[len(m.pushed)-1-n])
+	}
+	return m.left & m.loose
 }
 
 // tangled is whether some value that is still to be pushed can't be taken, though it can't stay. What begins to be pushed when that has been done is above it.
@@ -157,7 +165,7 @@ func (m *moment) tangled() bool {
 			continue
 		}
 		s := m.sweepOf(d.Begun, func(o api.Done) bool { return o.Begun > d.Ended })
-		if !s.take(d.Value) {
+		if !s.take(d.Value, m.left&m.loose) {
 			return true
 		}
 	}
