@@ -97,7 +97,7 @@ func (m *moment) hopeless() bool {
 	case !m.balanced():
 		return true
 	case m.client == api.Stack:
-		return !m.unwinds() || m.left == all(len(m.calls)) && m.tangled()
+		return !m.unwinds() || m.ends && !m.settles() || m.left == all(len(m.calls)) && m.tangled()
 	case m.client == api.Queue:
 		return !m.lasts()
 	}

@@ -30,29 +30,17 @@ type change struct {
 
 // sweep looks for the first moment at which something of a stack can be taken. Then all above it has been taken, and also what must have been pushed above it by then: so for each of these values a call must have begun that takes it, or one that may take anything.
 type sweep struct {
-	*moment
 	now   int
 	later []change
 	short shortage // of calls that have begun
 	spare int      // how many have begun that may take anything
 }
 
-// sweepOf begins at a moment, and goes by which of the calls that must be done put something in above.
-func (m *moment) sweepOf(from int, above func(api.Done) bool) *sweep {
-	s := &sweep{moment: m, short: shortage{of: map[uint64]int{}}}
-	for i := range m.left.each() {
-		d := m.calls[i]
-		switch {
-		case m.loose.has(i):
-			s.later = append(s.later, change{at: d.Begun, spare: 1})
-		case takes(d.Op) && d.Answer.Yes:
-			s.later = append(s.later, change{at: d.Begun, value: d.Answer.Value, more: -1})
-		case puts(d.Op) && returned(d) && d.Ended < math.MaxInt && above(d):
-			s.later = append(s.later, change{at: d.Ended + 1, value: d.Value, more: 1})
-		}
-	}
+// sweepOf begins at a moment.
+func sweepOf(now int, changes []change) *sweep {
+	s := &sweep{later: changes, short: shortage{of: map[uint64]int{}}}
 	slices.SortFunc(s.later, func(a, b change) int { return cmp.Compare(a.at, b.at) })
-	s.goTo(from)
+	s.goTo(now)
 	return s
 }
 
@@ -65,10 +53,10 @@ func (s *sweep) goTo(now int) {
 	}
 }
 
-// take goes on to the first moment at which one more of a value can be taken, by a call that takes it or by others that may take anything. There may be none.
-func (s *sweep) take(value uint64, others set) bool {
+// take goes on to the first moment at which one more of a value can be taken, by some call that is able to at that moment. There may be none.
+func (s *sweep) take(value uint64, able func(now int) set) bool {
 	s.short.need(value, 1)
-	for s.short.sum > s.spare || (s.takersFrom(value, s.now)|others)&s.begun() == 0 {
+	for s.short.sum > s.spare || able(s.now) == 0 {
 		if len(s.later) == 0 {
 			return false
 		}
@@ -77,9 +65,26 @@ func (s *sweep) take(value uint64, others set) bool {
 	return true
 }
 
-// begun are the calls left that have begun by now.
-func (s *sweep) begun() set {
-	return s.those(s.left, func(d api.Done) bool { return d.Begun <= s.now })
+// changesUp are those that matter for a thing, if the calls that push something above it are so.
+func (m *moment) changesUp(above func(api.Done) bool) []change {
+	var l []change
+	for i := range m.left.each() {
+		d := m.calls[i]
+		switch {
+		case m.loose.has(i):
+			l = append(l, change{at: d.Begun, spare: 1})
+		case takes(d.Op) && d.Answer.Yes:
+			l = append(l, change{at: d.Begun, value: d.Answer.Value, more: -1})
+		case puts(d.Op) && returned(d) && d.Ended < math.MaxInt && above(d):
+			l = append(l, change{at: d.Ended + 1, value: d.Value, more: 1})
+		}
+	}
+	return l
+}
+
+// takersAt are the calls left that can take a value at a moment, and some others, if they can do so.
+func (m *moment) takersAt(value uint64, others set, now int) set {
+	return m.those(m.takersFrom(value, now)|others, func(d api.Done) bool { return d.Begun <= now })
 }
 
 // takersFrom are the calls left that take a value, and can do so at a moment or later.
@@ -89,18 +94,18 @@ func (m *moment) takersFrom(value uint64, now int) set {
 
 // unwinds is whether the things of a stack can be taken one after the other, up to one that can stay with all below it, and in time for the calls that found nothing.
 func (m *moment) unwinds() bool {
-	s := m.sweepOf(m.latest(), func(api.Done) bool { return true })
+	s := sweepOf(m.latest(), m.changesUp(func(api.Done) bool { return true }))
 	short := m.shortOfThings()
 	var moments []int
 	for n, thing := range m.things {
 		if short.sum == 0 && m.canStay(n) {
 			return true
 		}
-		if !s.take(thing.Value, m.looseFor(n)) {
+		if !s.take(thing.Value, func(now int) set { return m.takersAt(thing.Value, m.looseFor(n), now) }) {
 			return false
 		}
 		moments = append(moments, s.now)
-		if !m.enough(moments) {
+		if !enough(m.things[:n+1], func(i int) set { return m.looseFor(i) | m.takersFrom(thing.Value, moments[i]) }) {
 			return false
 		}
 		short.need(thing.Value, -1)
@@ -123,25 +128,27 @@ func (m *moment) shortOfThings() *shortage {
 
 // canStay is whether the things from the n-th one on may be there in the end.
 func (m *moment) canStay(n int) bool {
-	rest := m.things[n:]
 	if m.left&m.missing != 0 {
 		return false
 	}
-	return !m.ends || len(rest) <= len(m.last) && slices.EqualFunc(rest, m.last[len(m.last)-len(rest):], sameValue)
+	return !m.ends || endsWith(m.last, m.things[n:])
 }
 
-// enough is whether there are calls for all of the first things, when each is taken at its moment or later: of those that have the value of the last one, each needs a call of its own.
-func (m *moment) enough(moments []int) bool {
-	last := len(moments) - 1
-	value := m.things[last].Value
-	alike, takers := 0, set(0)
-	for n := last; n >= 0; n-- {
-		if m.things[n].Value != value {
+func endsWith(l, end []api.Thing) bool {
+	return len(end) <= len(l) && slices.EqualFunc(l[len(l)-len(end):], end, sameValue)
+}
+
+// enough is whether each thing that has the value of the last one has a call of its own, if the i-th one can be done by some calls alone, and the ones before it by no others.
+func enough(l []api.Thing, able func(i int) set) bool {
+	value := l[len(l)-1].Value
+	alike, calls := 0, set(0)
+	for i := len(l) - 1; i >= 0; i-- {
+		if l[i].Value != value {
 			continue
 		}
 		alike++
-		takers |= m.looseFor(n) | m.takersFrom(value, moments[n])
-		if alike > takers.len() {
+		calls |= able(i)
+		if alike > calls.len() {
 			return false
 		}
 	}
@@ -156,6 +163,52 @@ func (m *moment) looseFor(n int) set {
 	return m.left & m.loose
 }
 
+// settles is whether the things at the end can be pushed, but for those that may be there already. It looks back from the end, at moments below 0, as in a mirror: what must be taken later than a thing is pushed that stays must be pushed later, too.
+func (m *moment) settles() bool {
+	s := sweepOf(-math.MaxInt, m.changesBack())
+	var moments []int
+	for n, thing := range m.last {
+		if endsWith(m.things, m.last[n:]) {
+			return true
+		}
+		if !s.take(thing.Value, func(now int) set { return m.pushersUpTo(thing.Value, -now) & m.pushersFrom(thing.Value, -now) }) || -s.now < m.latest() {
+			return false
+		}
+		moments = append(moments, -s.now)
+		if !enough(m.last[:n+1], func(i int) set { return m.pushersUpTo(thing.Value, moments[i]) }) {
+			return false
+		}
+	}
+	return true
+}
+
+// changesBack are those that matter for a thing that stays.
+func (m *moment) changesBack() []change {
+	var l []change
+	for i := range m.left.each() {
+		d := m.calls[i]
+		switch {
+		case puts(d.Op) && returned(d):
+			l = append(l, change{at: -d.Ended, value: d.Value, more: -1})
+		case puts(d.Op):
+			l = append(l, change{at: -math.MaxInt, value: d.Value, more: -1})
+		case returned(d) && d.Answer.Yes:
+			l = append(l, change{at: 1 - d.Begun, value: d.Answer.Value, more: 1})
+		}
+	}
+	return l
+}
+
+// pushersUpTo are the calls left that push a value, and can do so at a moment or earlier.
+func (m *moment) pushersUpTo(value uint64, now int) set {
+	return m.those(m.left&m.putting[value], func(d api.Done) bool { return d.Begun <= now })
+}
+
+// pushersFrom are the calls left that push a value, and can do so at a moment or later.
+func (m *moment) pushersFrom(value uint64, now int) set {
+	return m.those(m.left&m.putting[value], func(d api.Done) bool { return !returned(d) || now <= d.Ended })
+}
+
 // tangled is whether some value that is still to be pushed can't be taken, though it can't stay. What begins to be pushed when that has been done is above it.
 func (m *moment) tangled() bool {
 	for i := range (m.left & m.must).each() {
@@ -164,8 +217,8 @@ func (m *moment) tangled() bool {
 		if takes(d.Op) || there > (m.left&m.taking[d.Value]).len() {
 			continue
 		}
-		s := m.sweepOf(d.Begun, func(o api.Done) bool { return o.Begun > d.Ended })
-		if !s.take(d.Value, m.left&m.loose) {
+		s := sweepOf(d.Begun, m.changesUp(func(o api.Done) bool { return o.Begun > d.Ended }))
+		if !s.take(d.Value, func(now int) set { return m.takersAt(d.Value, m.left&m.loose, now) }) {
 			return true
 		}
 	}
