@@ -350,6 +350,37 @@ func TestHoweverEarlyAndLate(t *testing.T) {
 	}
 }
 
+// TestAnyTimes lets calls begin at any moment before they are done, and return at any moment behind that, or not at all.
+func TestAnyTimes(t *testing.T) {
+	for n := range 900 {
+		s := spread(n)
+		g := game{c: clients[n%len(clients)]}
+		values, most := []int{1, 2, 4, 1000}[s.below(4)], 1+s.below(60)
+		for range s.below(2) {
+			g.first = append(g.first, api.Thing{Value: uint64(s.below(values))})
+		}
+		p := plainOf(g.c, g.first)
+		for i := range most {
+			d := api.Done{Op: rows[g.c][s.below(len(rows[g.c]))], Value: uint64(s.below(values))}
+			d.Begun, d.Ended = s.below(10*i+1), 10*i+1+s.below(10*(most-i))
+			a, q := p.do(d.Op, d.Key, d.Value)
+			switch {
+			case d.Op == api.OpGet || s.below(8) > 0:
+				d.Answer, p = a, q
+			case s.below(2) == 0:
+				d.Ended, p = -1, q
+			default:
+				d.Ended = -1
+			}
+			g.l = append(g.l, d)
+		}
+		g.last = p.things
+		mustFit(t, n, g)
+		shuffle(&s, g.l)
+		mustFit(t, n, g)
+	}
+}
+
 // TestNotDone puts calls among them that did not return, and were not done.
 func TestNotDone(t *testing.T) {
 	for n := range 600 {

@@ -30,6 +30,16 @@ func (m *moment) next() [][]int {
 	return append(each(append(take, inputs...)), m.gone()...)
 }
 
+// inTurn is next, but it begins with others from round to round.
+func (m *moment) inTurn(round int) [][]int {
+	next := m.next()
+	if len(next) < 2 {
+		return next
+	}
+	first := round * (m.left.len() + 3*len(m.things)) % len(next)
+	return append(next[first:len(next):len(next)], next[:first]...)
+}
+
 // each is a list of calls, each by itself.
 func each(calls []int) [][]int {
 	var l [][]int

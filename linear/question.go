@@ -49,27 +49,39 @@ func parted[T any](l []T, key func(T) uint64) map[uint64][]T {
 	return parts
 }
 
-// explained tries orders, call by call, until one has all calls that returned. What can follow a part of an order hangs on what its moment is called by alone: so parts that are alike in that are tried once.
+// explained goes in rounds, since a false step that is taken early can cost more than all else: after some moments another round begins, which takes steps in another order, and knows what has been tried to its end before.
 func (q *question) explained() bool {
 	if len(those(q.calls, possible)) < len(q.calls) {
 		return false
 	}
 	q.sort()
 	tried := map[string]struct{}{}
+	moments := 400
+	for round := 0; ; round++ {
+		if found, whole := q.search(tried, round, moments); found || whole {
+			return found
+		}
+		moments += moments / 4
+	}
+}
+
+// search tries orders, call by call, until one has all calls that returned, or there were so many moments that the search is not whole. What can follow a part of an order hangs on nothing but what its moment is called by: so from moments that are called alike all is tried once.
+func (q *question) search(tried map[string]struct{}, round, moments int) (found, whole bool) {
 	var try func(left set, x *model.Object, pushed []int) bool
 	try = func(left set, x *model.Object, pushed []int) bool {
 		found := false
+		var names []string
 	order:
-		for {
+		for moments > 0 {
+			moments--
 			m := q.momentOf(left, x, pushed)
-			name := m.name()
-			_, was := tried[name]
-			tried[name] = struct{}{}
+			names = append(names, m.name())
+			_, was := tried[m.name()]
 			found = m.through()
 			if found || was || m.hopeless() {
 				break
 			}
-			next := m.next()
+			next := m.inTurn(round)
 			for n, calls := range next {
 				if n == len(next)-1 { // nobody needs the object as it is any more
 					left, x, pushed = q.do(calls, left, x, pushed)
@@ -82,10 +94,16 @@ func (q *question) explained() bool {
 			}
 			break
 		}
+		if !found && moments > 0 {
+			for _, name := range names {
+				tried[name] = struct{}{}
+			}
+		}
 		return found
 	}
 	x, _ := model.New(q.client, q.first...)
-	return try(all(len(q.calls)), x, nil)
+	found = try(all(len(q.calls)), x, nil)
+	return found, moments > 0
 }
 
 // do lets an object perform calls. Of a stack it keeps which calls have pushed what is there, but for things that were there at first.
