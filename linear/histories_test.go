@@ -2,6 +2,7 @@ package linear
 
 import (
 	"math"
+	"slices"
 	"testing"
 
 	"reprieve/api"
@@ -195,20 +196,45 @@ func TestFitsInOrder(t *testing.T) {
 
 // P19.2 a map, with one key
 
+// insert, met and so on are calls upon the key 5.
+func insert(value uint64, from, to int) api.Done { return did(api.OpInsert, 5, value, 0, from, to) }
+func met(value uint64, from, to int) api.Done    { return didNot(api.OpInsert, 5, value, from, to) }
+func remove(found uint64, from, to int) api.Done { return did(api.OpRemove, 5, 8, found, from, to) }
+func removeNone(from, to int) api.Done           { return didNot(api.OpRemove, 5, 8, from, to) }
+func get(found uint64, from, to int) api.Done    { return did(api.OpGet, 5, 8, found, from, to) }
+func getNone(from, to int) api.Done              { return didNot(api.OpGet, 5, 8, from, to) }
+
+// seven is what there is of the key 5, if there is something.
+var seven = []api.Thing{{Key: 5, Value: 7}}
+
+// row is a history of one key.
+type row struct {
+	what  string
+	want  bool
+	first []api.Thing
+	l     []api.Done
+}
+
+// expectOfMaps asks all maps, for the key 5, and for the greatest one.
+func expectOfMaps(t *testing.T, rows []row) {
+	t.Helper()
+	for _, x := range rows {
+		first, l := slices.Clone(x.first), slices.Clone(x.l)
+		for i := range first {
+			first[i].Key = math.MaxUint64
+		}
+		for i := range l {
+			l[i].Key = math.MaxUint64
+		}
+		for _, c := range maps {
+			expect(t, x.what, x.want, c, x.first, x.l...)
+			expect(t, "the greatest key: "+x.what, x.want, c, first, l...)
+		}
+	}
+}
+
 func TestMap(t *testing.T) {
-	insert := func(value uint64, from, to int) api.Done { return did(api.OpInsert, 5, value, 0, from, to) }
-	met := func(value uint64, from, to int) api.Done { return didNot(api.OpInsert, 5, value, from, to) }
-	remove := func(found uint64, from, to int) api.Done { return did(api.OpRemove, 5, 8, found, from, to) }
-	removeNone := func(from, to int) api.Done { return didNot(api.OpRemove, 5, 8, from, to) }
-	get := func(found uint64, from, to int) api.Done { return did(api.OpGet, 5, 8, found, from, to) }
-	getNone := func(from, to int) api.Done { return didNot(api.OpGet, 5, 8, from, to) }
-	seven := []api.Thing{{Key: 5, Value: 7}}
-	for _, x := range []struct {
-		what  string
-		want  bool
-		first []api.Thing
-		l     []api.Done
-	}{
+	expectOfMaps(t, []row{
 		{"nothing", true, nil, nil},
 		{"a key that is not there", true, nil, []api.Done{getNone(0, 1), removeNone(2, 3), insert(7, 4, 5), get(7, 6, 7), met(9, 8, 9), get(7, 10, 11), remove(7, 12, 13), getNone(14, 15)}},
 		{"a get of nothing, with a value", false, nil, []api.Done{{Op: api.OpGet, Key: 5, Ended: 1, Answer: api.Answer{Value: 1}}}},
@@ -236,6 +262,11 @@ func TestMap(t *testing.T) {
 		{"there as the first get ends", true, nil, []api.Done{insert(1, 0, 9), get(1, 2, 4), getNone(4, 5)}},
 		{"no insert, since it is there late", false, nil, []api.Done{insert(1, 0, 9), remove(1, 0, 9), met(3, 10, 11)}},
 		{"no insert, since it is there in between", true, nil, []api.Done{insert(1, 0, 9), remove(1, 0, 9), met(3, 9, 11)}},
+	})
+}
+
+func TestMapWithCallsThatDidNotReturn(t *testing.T) {
+	expectOfMaps(t, []row{
 		{"an insert that did not return was done", true, nil, []api.Done{insert(1, 0, -1), get(1, 2, 3)}},
 		{"it was not done", true, nil, []api.Done{insert(1, 0, -1), getNone(2, 3)}},
 		{"it was done late", true, nil, []api.Done{insert(1, 0, -1), getNone(2, 3), get(1, 4, 5)}},
@@ -250,24 +281,7 @@ func TestMap(t *testing.T) {
 		{"0 is a value", true, nil, []api.Done{insert(0, 0, 1), get(0, 2, 3), remove(0, 4, 5), getNone(6, 7)}},
 		{"0 is there", false, nil, []api.Done{insert(0, 0, 1), getNone(2, 3)}},
 		{"another client's op", true, nil, []api.Done{did(api.OpPush, 5, 1, 0, 0, 1), getNone(2, 3)}},
-	} {
-		for _, c := range maps {
-			expect(t, x.what, x.want, c, x.first, x.l...)
-			for i := range x.l {
-				x.l[i].Key = math.MaxUint64
-			}
-			for i := range x.first {
-				x.first[i].Key = math.MaxUint64
-			}
-			expect(t, "the greatest key: "+x.what, x.want, c, x.first, x.l...)
-			for i := range x.l {
-				x.l[i].Key = 5
-			}
-			for i := range x.first {
-				x.first[i].Key = 5
-			}
-		}
-	}
+	})
 }
 
 // P19.2 a map, key by key
