@@ -27,7 +27,7 @@ func gameOf(data []byte) game {
 	for len(data) > 0 && len(g.l) < 6 {
 		o, given, found, from, to := next(), next(), next(), next(), next()
 		d := api.Done{Op: rows[g.c][o%len(rows[g.c])], Key: uint64(o / 4 % 2), Value: uint64(given % 4), Begun: from % 16}
-		d.Answer = api.Answer{Yes: found%2 == 1, Value: uint64(found / 2 % 4)}
+		d.Answer = api.Answer{Code: api.Errno(max(0, found-246)), Yes: found%2 == 1, Value: uint64(found / 2 % 4)}
 		d.Ended = d.Begun + to%16
 		if to%16 == 0 {
 			d.Ended = -1
@@ -43,6 +43,7 @@ func FuzzGame(f *testing.F) {
 	f.Add([]byte{0, 0, 0, 0, 1, 1, 0, 9, 0, 2, 1, 1, 7, 1, 0, 3, 10, 1})
 	f.Add([]byte{1, 2, 1, 2, 1, 2, 1, 0, 3, 0, 5, 0, 3, 1, 0, 2, 0, 0, 1, 0, 5, 1, 9})
 	f.Add([]byte{3, 1, 1, 0, 2, 0, 0, 3, 5, 1, 2, 5, 2, 0, 3, 1, 9, 0, 1, 1, 0, 0})
+	f.Add([]byte{0, 0, 0, 0, 1, 255, 0, 0, 1, 1, 3, 2, 1})
 	f.Fuzz(func(t *testing.T, data []byte) {
 		g := gameOf(data)
 		hold(t, "any bytes", g.c, g.first, g.l, g.last)

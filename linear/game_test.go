@@ -107,6 +107,11 @@ func (s *spread) anyOp(c api.ClientKind) api.Op {
 	return rows[c][s.below(len(rows[c]))]
 }
 
+// anyAnswer is what may stand in a call that did not return, as nobody was given it.
+func (s *spread) anyAnswer() api.Answer {
+	return api.Answer{Code: api.Errno(s.below(10)), Yes: s.below(2) == 1, Value: uint64(s.below(4))}
+}
+
 // small is a game of a few calls that were done one after the other, with whatever time each took, but for some in which something is changed then.
 func small(s *spread) game {
 	g := game{c: clients[s.below(len(clients))]}
@@ -243,7 +248,7 @@ func TestAnswersHangOnNothingElse(t *testing.T) {
 		same("calls that don't count", h)
 		for i := range h.l {
 			if h.l[i].Ended < 0 {
-				h.l[i].Answer.Yes, h.l[i].Answer.Value = true, uint64(s.below(4))
+				h.l[i].Answer = s.anyAnswer()
 			}
 		}
 		same("answers of calls that did not return", h)
@@ -291,7 +296,7 @@ func long(s *spread, c api.ClientKind, threads, values, most int) game {
 	}
 	for i := range g.l {
 		if g.l[i].Ended < 0 {
-			g.l[i].Answer = api.Answer{}
+			g.l[i].Answer = s.anyAnswer()
 		}
 	}
 	g.last = p.things
@@ -389,6 +394,7 @@ func TestNotDone(t *testing.T) {
 		g := long(&s, c, 1+s.below(3), []int{2, 5, 1000}[s.below(3)], 30+s.below(20))
 		for range 1 + s.below(8) {
 			d := didNot(rows[c][s.below(2)], uint64(s.below(3)), uint64(s.below(5)), 10*s.below(20), -1)
+			d.Answer = s.anyAnswer()
 			g.l = slices.Insert(g.l, s.below(len(g.l)+1), d)
 		}
 		mustFit(t, n, g)

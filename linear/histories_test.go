@@ -59,6 +59,11 @@ func TestStack(t *testing.T) {
 		{"it began too late", false, nil, []api.Done{pop(1, 2, 3), push(1, 4, -1)}},
 		{"it began as the pop ended", true, nil, []api.Done{pop(1, 2, 4), push(1, 4, -1)}},
 		{"what it was answered is not looked at", true, nil, []api.Done{did(api.OpPush, 0, 1, 8, 0, -1), pop(1, 2, 3)}},
+		{"nor is a code that nobody was given", true, nil, []api.Done{failed(push(1, 0, -1)), pop(1, 2, 3)}},
+		{"with a code, and it was not done", true, nil, []api.Done{failed(push(1, 0, -1)), popNone(2, 3)}},
+		{"with a code, and it was done once", false, nil, []api.Done{failed(push(1, 0, -1)), pop(1, 2, 3), pop(1, 4, 5)}},
+		{"with a code, and it began too late", false, nil, []api.Done{pop(1, 2, 3), failed(push(1, 4, -1))}},
+		{"with a code, and it takes something", true, things(1, 2), []api.Done{failed(didNot(api.OpPop, 0, 0, 0, -1)), pop(1, 2, 3)}},
 		{"a pop that did not return takes something", true, things(1, 2), []api.Done{didNot(api.OpPop, 0, 0, 0, -1), pop(1, 2, 3)}},
 		{"it takes just one thing", false, things(1, 2, 3), []api.Done{didNot(api.OpPop, 0, 0, 0, -1), pop(1, 2, 3)}},
 		{"it takes nothing", true, things(1, 2), []api.Done{didNot(api.OpPop, 0, 0, 0, -1), pop(2, 2, 3), pop(1, 4, 5)}},
@@ -111,6 +116,9 @@ func TestQueue(t *testing.T) {
 		{"it takes just one thing", false, things(1, 2, 3), []api.Done{didNot(api.OpDequeue, 0, 0, 0, -1), dequeue(3, 2, 3)}},
 		{"it takes nothing", true, things(1), []api.Done{didNot(api.OpDequeue, 0, 0, 0, -1), dequeue(1, 2, 3), dequeueNone(4, 5)}},
 		{"it takes what another one put in", true, nil, []api.Done{enqueue(1, 0, 1), didNot(api.OpDequeue, 0, 0, 0, -1), dequeueNone(4, 5)}},
+		{"with a code, and it was done", true, nil, []api.Done{failed(enqueue(1, 0, -1)), dequeue(1, 2, 3)}},
+		{"with a code, and it was not done", true, nil, []api.Done{failed(enqueue(1, 0, -1)), dequeueNone(2, 3)}},
+		{"with a code, and it takes something", true, things(1, 2), []api.Done{failed(didNot(api.OpDequeue, 0, 0, 0, -1)), dequeue(2, 2, 3)}},
 		{"one that began early takes it", true, things(1), []api.Done{didNot(api.OpDequeue, 0, 0, 9, -1), didNot(api.OpDequeue, 0, 0, 0, -1), dequeueNone(4, 5), enqueue(2, 3, 6)}},
 		{"an error", true, nil, []api.Done{{Op: api.OpEnqueue, Value: 1, Ended: 1, Answer: api.Answer{Code: api.ErrFull}}, dequeueNone(2, 3)}},
 		{"another client's op", true, nil, []api.Done{push(1, 0, 1), dequeueNone(2, 3)}},
@@ -187,7 +195,11 @@ func TestFitsInOrder(t *testing.T) {
 			{"two of them", true, things(1, 1), nil, []api.Done{didNot(out, 0, 0, 0, -1), didNot(out, 0, 0, 0, -1)}},
 			{"too few of them", false, things(1, 1, 1), nil, []api.Done{didNot(out, 0, 0, 0, -1), didNot(out, 0, 0, 0, -1)}},
 			{"nobody takes what was put in", false, nil, nil, []api.Done{in(1, 0, 1), didNot(out, 0, 0, 0, 1)}},
-			{"an error", true, things(1), things(1), []api.Done{{Op: rows[c][0], Value: 1, Ended: 1, Answer: api.Answer{Code: api.ErrFull}}}},
+			{"an error", true, things(1), things(1), []api.Done{failed(in(1, 0, 1))}},
+			{"an error, and done", false, things(1), things(1, 1), []api.Done{failed(in(1, 0, 1))}},
+			{"not returned, with a code, and done", true, things(1), things(1, 1), []api.Done{failed(in(1, 0, -1))}},
+			{"not returned, with a code, and not done", true, things(1), things(1), []api.Done{failed(in(1, 0, -1))}},
+			{"taken by one that did not return, with a code", true, things(1), nil, []api.Done{failed(didNot(out, 0, 0, 0, -1))}},
 		} {
 			expectFit(t, x.what, x.want, c, x.first, turned(c, x.put), x.l...)
 		}
@@ -277,6 +289,11 @@ func TestMapWithCallsThatDidNotReturn(t *testing.T) {
 		{"it was not done", true, seven, []api.Done{removeNone(0, -1), get(7, 2, 3)}},
 		{"it was done once", false, seven, []api.Done{removeNone(0, -1), getNone(2, 3), insert(1, 4, 5), getNone(6, 7)}},
 		{"a get that did not return", true, nil, []api.Done{get(7, 0, -1)}},
+		{"with a code, and the insert was done", true, nil, []api.Done{failed(insert(1, 0, -1)), get(1, 2, 3)}},
+		{"with a code, and the insert was not done", true, nil, []api.Done{failed(insert(1, 0, -1)), getNone(2, 3)}},
+		{"with a code, and the remove was done", true, seven, []api.Done{failed(removeNone(0, -1)), getNone(2, 3)}},
+		{"with a code, and the remove was not done", true, seven, []api.Done{failed(removeNone(0, -1)), get(7, 2, 3)}},
+		{"a get that did not return, with a code", true, nil, []api.Done{failed(get(7, 0, -1)), getNone(2, 3)}},
 		{"an error", true, nil, []api.Done{{Op: api.OpInsert, Key: 5, Value: 1, Ended: 1, Answer: api.Answer{Code: api.ErrFull}}, getNone(2, 3)}},
 		{"0 is a value", true, nil, []api.Done{insert(0, 0, 1), get(0, 2, 3), remove(0, 4, 5), getNone(6, 7)}},
 		{"0 is there", false, nil, []api.Done{insert(0, 0, 1), getNone(2, 3)}},
@@ -322,6 +339,8 @@ func TestKeyByKey(t *testing.T) {
 		}
 		expectFit(t, "an insert that did not return, done", true, c, nil, []api.Thing{{Key: 3, Value: 1}}, didNot(api.OpInsert, 3, 1, 0, -1))
 		expectFit(t, "an insert that did not return, not done", true, c, nil, nil, didNot(api.OpInsert, 3, 1, 0, -1))
+		expectFit(t, "with a code, done", true, c, nil, []api.Thing{{Key: 3, Value: 1}}, failed(didNot(api.OpInsert, 3, 1, 0, -1)))
+		expectFit(t, "with a code, not done", true, c, nil, nil, failed(didNot(api.OpInsert, 3, 1, 0, -1)))
 		expectFit(t, "a remove that did not return, done", true, c, first[:1], nil, didNot(api.OpRemove, 0, 1, 0, -1))
 		expectFit(t, "a remove that did not return, not done", true, c, first[:1], first[:1], didNot(api.OpRemove, 0, 1, 0, -1))
 		expectFit(t, "nothing", true, c, nil, nil)

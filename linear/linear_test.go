@@ -35,6 +35,12 @@ func dequeue(found uint64, from, to int) api.Done { return did(api.OpDequeue, 0,
 func popNone(from, to int) api.Done               { return didNot(api.OpPop, 0, 0, from, to) }
 func dequeueNone(from, to int) api.Done           { return didNot(api.OpDequeue, 0, 0, from, to) }
 
+// failed is a call with another code than OK in its answer; if it did not return, nobody was answered that.
+func failed(d api.Done) api.Done {
+	d.Answer = api.Answer{Code: api.ErrFull}
+	return d
+}
+
 func put(o api.Op, value uint64, from, to int) api.Done {
 	if to < 0 {
 		return didNot(o, 0, value, from, to)
@@ -161,7 +167,11 @@ func TestCounts(t *testing.T) {
 	for _, c := range append(noClients, clients...) {
 		var want []api.Done
 		for _, d := range l {
-			if slices.Contains(rows[c], d.Op) && d.Answer.Code == api.OK && (d.Op != api.OpGet || d.Ended >= 0) {
+			counts := d.Answer.Code == api.OK
+			if d.Ended < 0 {
+				counts = d.Op != api.OpGet
+			}
+			if slices.Contains(rows[c], d.Op) && counts {
 				want = append(want, d)
 			}
 		}
@@ -182,7 +192,7 @@ func TestCounts(t *testing.T) {
 }
 
 func TestCountsKeepsTheOrder(t *testing.T) {
-	l := []api.Done{push(3, 9, 10), push(1, 5, 6), pop(3, 0, 1), push(1, 5, 6)}
+	l := []api.Done{push(3, 9, 10), push(1, 5, 6), failed(push(2, 3, -1)), pop(3, 0, 1), push(1, 5, 6)}
 	if got := Counts(api.Stack, l); !slices.Equal(got, l) {
 		t.Error(got)
 	}
@@ -201,7 +211,11 @@ func TestKeys(t *testing.T) {
 		didNot(api.OpGet, 4, 0, 0, -1),
 		didNot(api.OpRemove, 5, 0, 0, -1),
 		did(api.OpRemove, 7, 0, 0, 0, 1),
-		{Op: api.OpInsert, Key: 6, Ended: 1, Answer: api.Answer{Code: api.ErrFull}},
+		failed(didNot(api.OpInsert, 6, 1, 0, 1)),
+		failed(didNot(api.OpInsert, 2, 1, 0, -1)),
+		failed(didNot(api.OpRemove, 1, 0, 0, -1)),
+		failed(didNot(api.OpGet, 10, 0, 0, -1)),
+		failed(didNot(api.OpPush, 11, 1, 0, -1)),
 		did(api.OpPush, 8, 1, 0, 0, 1),
 		didNot(api.OpGet, 9, 0, 2, 3),
 	}
@@ -211,11 +225,11 @@ func TestKeys(t *testing.T) {
 			l     []api.Done
 			want  []uint64
 		}{
-			{first, l, []uint64{0, 3, 5, 7, 9, math.MaxUint64}},
+			{first, l, []uint64{0, 1, 2, 3, 5, 7, 9, math.MaxUint64}},
 			{first, nil, []uint64{0, 9, math.MaxUint64}},
-			{nil, l, []uint64{3, 5, 7, 9}},
+			{nil, l, []uint64{1, 2, 3, 5, 7, 9}},
 			{nil, nil, nil},
-			{append(first, first...), append(l, l...), []uint64{0, 3, 5, 7, 9, math.MaxUint64}},
+			{append(first, first...), append(l, l...), []uint64{0, 1, 2, 3, 5, 7, 9, math.MaxUint64}},
 		} {
 			if got := Keys(c, x.first, x.l); !slices.Equal(got, x.want) {
 				t.Errorf("client %d: %v, not %v", c, got, x.want)
@@ -288,10 +302,11 @@ func TestTooLong(t *testing.T) {
 		for i := range 30 {
 			l = append(l, did(in, uint64(i), uint64(i), 0, 4*i, 4*i+1), did(out, uint64(i), 0, uint64(i), 4*i+2, 4*i+3))
 		}
-		others := []api.Done{did(api.OpInsert, 1, 1, 0, 0, 1), {Op: in, Ended: 1, Answer: api.Answer{Code: api.ErrFull}}, {Op: 99, Ended: 1}}
+		others := []api.Done{did(api.OpInsert, 1, 1, 0, 0, 1), failed(put(in, 1, 0, 1)), {Op: 99, Ended: 1}, failed(didNot(api.OpInsert, 1, 1, 0, -1))}
 		expectFit(t, "60", true, c, things(), things(), append(others, l...)...)
 		refuse(t, "61", api.ErrLong, c, nil, nil, append(l, put(in, 1, 500, 501))...)
 		refuse(t, "61, one of which did not return", api.ErrLong, c, nil, nil, append(l, put(in, 1, 0, -1))...)
+		refuse(t, "61, one of which did not return, with a code", api.ErrLong, c, nil, nil, append(l, failed(put(in, 1, 0, -1)))...)
 		refuse(t, "61, which can't be explained", api.ErrLong, c, nil, nil, append(l, did(out, 0, 0, 99, 500, 501))...)
 	}
 	for _, c := range maps {
@@ -299,10 +314,11 @@ func TestTooLong(t *testing.T) {
 		for i := range 60 {
 			l = append(l, didNot(api.OpGet, 5, 0, 2*i, 2*i+1), didNot(api.OpRemove, uint64(i+10), 0, i, i+1))
 		}
-		l = append(l, didNot(api.OpGet, 5, 0, 0, -1))
+		l = append(l, didNot(api.OpGet, 5, 0, 0, -1), failed(didNot(api.OpGet, 5, 0, 0, -1)), failed(didNot(api.OpRemove, 5, 0, 0, 1)))
 		expectFit(t, "60 with one key, and 60 more", true, c, nil, nil, l...)
 		refuse(t, "61 with one key", api.ErrLong, c, nil, nil, append(l, didNot(api.OpGet, 5, 0, 0, 1))...)
 		refuse(t, "61 with one key", api.ErrLong, c, nil, nil, append(l, didNot(api.OpRemove, 5, 0, 0, -1))...)
+		refuse(t, "61 with one key, one of which did not return, with a code", api.ErrLong, c, nil, nil, append(l, failed(didNot(api.OpRemove, 5, 0, 0, -1)))...)
 		refuse(t, "61 with one key, and one with another that can't be explained", api.ErrLong, c, nil, nil, append(l, didNot(api.OpRemove, 5, 0, 0, 1), did(api.OpGet, 1, 0, 0, 0, 1))...)
 	}
 }

@@ -64,7 +64,8 @@ func (p plain) has(last []api.Thing) bool {
 // plainly looks through all orders of the calls that count, by the chapter's words, for the whole object at once; for things at the end only if it is asked for them.
 func plainly(c api.ClientKind, first []api.Thing, l []api.Done, last []api.Thing, ends bool) bool {
 	l = slices.DeleteFunc(slices.Clone(l), func(d api.Done) bool {
-		return !slices.Contains(rows[c], d.Op) || d.Answer.Code != api.OK || d.Op == api.OpGet && d.Ended < 0
+		refused := d.Ended >= 0 && d.Answer.Code != api.OK
+		return !slices.Contains(rows[c], d.Op) || refused || d.Op == api.OpGet && d.Ended < 0
 	})
 	var try func(l []api.Done, p plain) bool
 	try = func(l []api.Done, p plain) bool {
